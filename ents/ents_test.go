@@ -216,7 +216,7 @@ func all(t *testing.T, l []api.Ent, n string, no int) {
 func names() []string {
 	return []string{
 		"", "\x00", "\x00\x00", "\x00a", "\x01", "\n", " ", "%41", ".", "..", "...", "/", "10", "2", "A", "B", "Ba", "Z", "_", "a", "a\x00", "a\x00b", "a ", "a b", "a.2",
-		"a.~1~", "a.~10~", "a.~2~", "a/b", "aa", "aaa", "ab", "a\x7f", "a\x80", "aé", "a\xff", "b", "b\x00", "ba", "z", "zz", "\x7f", "\x80", "\xc3", "é", "日", "日本", "\uffff", "😀", "\xfe", "\xff", "\xff\x00", "\xff\xff",
+		"a.~10~", "a.~1~", "a.~2~", "a/b", "aa", "aaa", "ab", "a\x7f", "a\x80", "aé", "a\xff", "b", "b\x00", "ba", "z", "zz", "\x7f", "\x80", "\xc3", "é", "日", "日本", "\uffff", "😀", "\xfe", "\xff", "\xff\x00", "\xff\xff",
 	}
 }
 
